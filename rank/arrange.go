@@ -1,7 +1,7 @@
 package rank
 
 // arrange puts a list in order, by halves; room is as long as the list at least. It tells how many pairs it turned round.
-// The steps hang on the list's length alone, so that it ends and loses nothing, even where ahead is no order.
+// Whatever ahead answers, each step of a join moves one thing on, so that it ends and loses nothing, even where ahead is no order.
 func arrange[T any](l, room []T, ahead func(a, b T) bool) int {
 	half := len(l) / 2
 	if half == 0 {
